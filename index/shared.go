@@ -56,7 +56,7 @@ func (s *shared) get(key string) (api.Entry, bool) {
 	return e, there
 }
 
-// between are the entries with keys from one on, up to another one (the empty key: to the end). No part is read that can't have one.
+// between are the entries with keys from one on, up to another one (the empty key: to the end). Where to begin is found by halving, so that few parts are read.
 func (s *shared) between(from, to string) []api.Entry {
 	above := sort.Search(s.table.Parts(), func(i int) bool { return s.part(i)[0].Key > from })
 	var l []api.Entry
